@@ -199,6 +199,7 @@ func TestP9_1OneKnown(t *testing.T) {
 func TestP9_1OneOfWhatMayNotBe(t *testing.T) {
 	l := of("a", "(", "1", "x", "b", "\n", "a", "x")
 	for m, want := range map[api.Matcher]bool{
+		one(api.NotLike, "b", "("): true, one(api.NotLike, "é", "["): true, one(api.NotLike, "", "*"): true, one(api.NotLike, "1", "\n("): true, one(api.Like, "é", "["): false,
 		one(api.Is, "a", "("): true, one(api.Is, "1", "x"): true, one(api.Not, "1", "x"): false, one(api.Like, "1", "x|y"): true, one(api.Like, "b", "\n"): true, one(api.NotLike, "b", "."): false, one(api.Like, "b", "\\\n"): true, one(api.Is, "é", ""): true,
 	} {
 		if One(m, l) != want {
@@ -214,8 +215,11 @@ func TestP9_1OneOfWhatMayNotBe(t *testing.T) {
 func TestP9_1OneOfNoPatternFitsNothing(t *testing.T) {
 	for _, p := range []string{"(", ")", "*", "a**", "[", "[b-a]", `\`, "\xff", "\ufffd", strings.Repeat("a", 61), strings.Repeat("(", 11) + strings.Repeat(")", 11), strings.Repeat("a", 1<<20)} {
 		for _, l := range [][]api.Label{nil, of("a", "x"), of("a", p), of("b", "x")} {
-			if One(one(api.Like, "a", p), l) || One(one(api.NotLike, "a", p), l) || All(list(one(api.NotLike, "a", p)), l) {
-				t.Errorf("%.20q fits %.20q", p, l)
+			if One(one(api.Like, "a", p), l) || All(list(one(api.Like, "a", p)), l) {
+				t.Errorf("Like of %.20q fits %.20q", p, l)
+			}
+			if !One(one(api.NotLike, "a", p), l) || !All(list(one(api.NotLike, "a", p)), l) {
+				t.Errorf("NotLike of %.20q does not fit %.20q", p, l)
 			}
 		}
 	}
