@@ -421,9 +421,18 @@ func TestP17_2SaveAtTheEdgesOfSeq(t *testing.T) {
 
 func TestP17_2SaveOfNoDisk(t *testing.T) {
 	for _, d := range []*disk.Disk{nil, {}} {
-		wantNoSave(t, "no disk", d, some(), api.ErrNil)
-		wantNoSave(t, "no disk", d, Fresh(), api.ErrNil)
-		wantNoSave(t, "no disk and no anchor", d, api.Anchor{}, api.ErrArg)
+		for _, a := range rightAnchors() {
+			wantNoSave(t, "no disk", d, earlier(a), api.ErrNil)
+		}
+		for _, a := range wrongAnchors() {
+			wantNoSave(t, "no disk and no anchor", d, a, api.ErrNil)
+			wantNoSave(t, "no disk and no anchor", d, earlier(a), api.ErrNil)
+		}
+		for _, seq := range []int{-1, least, api.MaxNumber, most} {
+			a := some()
+			a.Seq = seq
+			wantNoSave(t, "no disk and no such Seq", d, a, api.ErrNil)
+		}
 	}
 }
 
