@@ -66,7 +66,7 @@ func (p *play) someOp() api.Op {
 		from, to := p.someRange()
 		return api.Op{Kind: api.OpDelete, Matchers: p.someMatchers(), From: from, To: to}
 	case 2:
-		return api.Op{Kind: api.OpKeep, Keep: p.r.Intn(300)}
+		return api.Op{Kind: api.OpKeep, Keep: 50 + p.r.Intn(700)}
 	}
 	var l []api.Row
 	for range 1 + p.r.Intn(25) {
@@ -256,7 +256,7 @@ func (p *play) check() {
 // P1: as long as no group has more than one damaged extent, all is told, whatever stops.
 func TestP1OneOfEachGroup(t *testing.T) {
 	for seed := range int64(50) {
-		p := newPlay(t, seed, 600+int(seed)*24)
+		p := newPlay(t, seed, 90+int(seed*seed))
 		for range 120 {
 			if p.r.Intn(6) == 0 {
 				p.d.Fuse(p.r.Intn(60))
